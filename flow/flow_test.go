@@ -12,6 +12,7 @@ import (
 	"twinstep/flow"
 	"twinstep/nodes"
 	"twinstep/parse"
+	"twinstep/right"
 )
 
 // short tells a text shortly.
@@ -102,8 +103,8 @@ func apart(p api.Program) bool {
 // follows asks for P8.2 of a program that s tells.
 func follows(t *testing.T, what string, s api.Syntax, p api.Program) {
 	t.Helper()
-	if not := wrong(p); not != "" {
-		t.Fatalf("%s: not right: %s", short(what), not)
+	if !right.Right(p) {
+		t.Fatalf("%s: not right: %s", short(what), short(whole(p)))
 	}
 	if how := strays(s, p); how != "" {
 		t.Fatalf("%s: it goes another way: %s", short(what), how)
