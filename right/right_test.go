@@ -407,16 +407,16 @@ func TestSlots(t *testing.T) {
 	tell(t, "slots without end", build(0, math.MaxInt, 0), false)
 }
 
-// P9.1: an expression stands just once, behind its kids.
-func TestOnce(t *testing.T) {
-	// Of function 1: 0 and 1 are kids of 2, 3 a target, 4 and 5 kids of 6; 2 and 6 are values.
-	build := func() api.Program {
-		return host(
-			returns(of(api.EIndex, 0, one(), one())),
-			stmt(api.SAssign).to(of(api.ESlot, 0)).by(of(api.EOr, 0, one(), one())),
-		)
-	}
-	tell(t, "each once", build(), true)
+// tied answers a program of whose function 1 the expressions 0 and 1 are kids of 2, 3 is a target, 4 and 5 are kids of 6; 2 and 6 are values.
+func tied() api.Program {
+	return host(
+		returns(of(api.EIndex, 0, one(), one())),
+		stmt(api.SAssign).to(of(api.ESlot, 0)).by(of(api.EOr, 0, one(), one())),
+	)
+}
+
+// P9.1: an expression that stands not just once, or not behind its kids.
+func TestNotOnce(t *testing.T) {
 	for what, spoil := range map[string]func(f *api.Proto){
 		"twice a kid of one":              func(f *api.Proto) { f.Exprs[2].Kids = []int{0, 0} },
 		"a kid of two":                    func(f *api.Proto) { f.Exprs[6].Kids = []int{0, 5} },
@@ -454,11 +454,16 @@ func TestOnce(t *testing.T) {
 		"a target below 0":                func(f *api.Proto) { f.Stmts[1].Targets = []int{3, -1} },
 		"a jump with what stands nowhere": func(f *api.Proto) { f.Stmts[0].Kind = api.SJump },
 	} {
-		p := build()
+		p := tied()
 		spoil(&p.Protos[1])
 		tell(t, what, p, false)
 		tellProto(t, what, p, 1, false)
 	}
+}
+
+// P9.1: an expression stands just once, behind its kids; in which order, is free.
+func TestOnce(t *testing.T) {
+	tell(t, "each once", tied(), true)
 	for what, may := range map[string]func(f *api.Proto){
 		"kids in another order": func(f *api.Proto) { f.Exprs[2].Kids = []int{1, 0} },
 		"kids far ahead":        func(f *api.Proto) { f.Exprs[2].Kids, f.Exprs[6].Kids = []int{0, 1}, []int{5, 4} },
@@ -470,7 +475,7 @@ func TestOnce(t *testing.T) {
 			f.Stmts[0].Exprs, f.Stmts[1].Exprs, f.Stmts[1].Targets = []int{6}, []int{3}, []int{2}
 		},
 	} {
-		p := build()
+		p := tied()
 		may(&p.Protos[1])
 		tell(t, what, p, true)
 	}
